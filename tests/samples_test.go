@@ -1,0 +1,250 @@
+package tests
+
+import (
+	"fmt"
+	"math/rand"
+
+	"loop.example/g01230/impl"
+)
+
+// sample is an algebra that the tests go through.
+type sample struct {
+	name    string
+	algebra impl.Algebra
+}
+
+// algebraOf returns the algebra of a prime, a size and a Unit in which the product of e(i) and
+// e(j) is the sum of the basis elements that products tells.
+func algebraOf(p, n int64, unit impl.Vector, products func(i, j int64) []int64) impl.Algebra {
+	a := impl.Algebra{Prime: p, Size: n, Unit: unit}
+	for i := range n {
+		for j := range n {
+			for _, k := range products(i, j) {
+				a.Mul[i][j][k]++
+			}
+		}
+	}
+	return a
+}
+
+// cyclic returns the group algebra of a cyclic group.
+func cyclic(p, n int64) impl.Algebra {
+	return algebraOf(p, n, impl.Vector{1}, func(i, j int64) []int64 { return []int64{(i + j) % n} })
+}
+
+// truncated returns the algebra of the powers of x with x^n = 0.
+func truncated(p, n int64) impl.Algebra {
+	return algebraOf(p, n, impl.Vector{1}, func(i, j int64) []int64 {
+		if i+j < n {
+			return []int64{i + j}
+		}
+		return nil
+	})
+}
+
+// points returns the algebra of n idempotents, the sum of which is the Unit.
+func points(p, n int64) impl.Algebra {
+	var unit impl.Vector
+	for i := range n {
+		unit[i] = 1
+	}
+	return algebraOf(p, n, unit, func(i, j int64) []int64 {
+		if i == j {
+			return []int64{i}
+		}
+		return nil
+	})
+}
+
+// matrices returns the algebra of tables of two rows.
+func matrices(p int64) impl.Algebra {
+	return algebraOf(p, 4, impl.Vector{1, 0, 0, 1}, func(i, j int64) []int64 {
+		if i%2 == j/2 {
+			return []int64{i/2*2 + j%2}
+		}
+		return nil
+	})
+}
+
+// triangular returns the algebra of upper triangular tables of two rows.
+func triangular(p int64) impl.Algebra {
+	a := impl.Algebra{Prime: p, Size: 3, Unit: impl.Vector{1, 0, 1}}
+	a.Mul[0][0][0], a.Mul[0][1][1], a.Mul[1][2][1], a.Mul[2][2][2] = 1, 1, 1, 1
+	return a
+}
+
+// dihedral returns the group algebra of the group of r and s with r^n = s s = 1 and s r = r^-1 s.
+func dihedral(p, n int64) impl.Algebra {
+	return algebraOf(p, 2*n, impl.Vector{1}, func(i, j int64) []int64 {
+		turn := i + j
+		if i >= n {
+			turn = i - j + n
+		}
+		return []int64{turn%n + (i/n+j/n)%2*n}
+	})
+}
+
+// slanted returns the same algebra with the basis f(i) = e(i) + 2 e(i-1) + 3 e(i-2) + .., so that
+// its table has few zeros.
+func slanted(a impl.Algebra) impl.Algebra {
+	var basis [8]impl.Vector
+	for i := range a.Size {
+		for j := range i + 1 {
+			basis[i][j] = byte((i - j + 1) % a.Prime)
+		}
+	}
+	toNew := func(v impl.Vector) impl.Vector {
+		var w impl.Vector
+		for i := a.Size - 1; i >= 0; i-- {
+			w[i] = v[i]
+			for j := range i + 1 {
+				v[j] = byte((int64(v[j]) + (a.Prime-int64(w[i]))*int64(basis[i][j])) % a.Prime)
+			}
+		}
+		return w
+	}
+	b := impl.Algebra{Prime: a.Prime, Size: a.Size, Unit: toNew(a.Unit)}
+	for i := range a.Size {
+		for j := range a.Size {
+			b.Mul[i][j] = toNew(productByHand(a, basis[i], basis[j]))
+		}
+	}
+	return b
+}
+
+// samples returns algebras of all sizes, commutative ones and others, for small and great primes.
+func samples() []sample {
+	var list []sample
+	add := func(name string, a impl.Algebra) {
+		list = append(list, sample{fmt.Sprint(name, " of ", a.Size, " for ", a.Prime), a})
+	}
+	for _, p := range []int64{2, 3, 5, 31} {
+		for n := int64(1); n <= impl.MaxSize; n++ {
+			add("cyclic", cyclic(p, n))
+			add("truncated", truncated(p, n))
+			add("points", points(p, n))
+		}
+		for _, a := range []impl.Algebra{matrices(p), triangular(p), dihedral(p, 3), dihedral(p, 4)} {
+			add("plain", a)
+			add("slanted", slanted(a))
+		}
+		add("slanted cyclic", slanted(cyclic(p, 8)))
+	}
+	return list
+}
+
+// brokenAlgebras returns structs each of which violates one condition for algebras. Those named
+// "axiom .." have the form of an algebra.
+func brokenAlgebras() []sample {
+	good := matrices(3)
+	var list []sample
+	add := func(name string, change func(a *impl.Algebra)) {
+		a := good
+		change(&a)
+		list = append(list, sample{name, a})
+	}
+	list = append(list, sample{"zero value", impl.Algebra{}})
+	for _, p := range []int64{-3, 0, 1, 4, 9, 32, 37, 3 + 256, -1 << 63, 1<<63 - 1} {
+		add(fmt.Sprint("Prime ", p), func(a *impl.Algebra) { a.Prime = p })
+	}
+	for _, n := range []int64{-1, 0, 3, 9, 4 + 256, -1 << 63, 1<<63 - 1} {
+		add(fmt.Sprint("Size ", n), func(a *impl.Algebra) { a.Size = n })
+	}
+	add("Unit with 3", func(a *impl.Algebra) { a.Unit[0] = 3 })
+	add("Unit with 4 for 1", func(a *impl.Algebra) { a.Unit[0] = 4 })
+	add("Unit behind", func(a *impl.Algebra) { a.Unit[4] = 1 })
+	add("Mul with 3", func(a *impl.Algebra) { a.Mul[0][3][0] = 3 })
+	add("Mul with 4 for 1", func(a *impl.Algebra) { a.Mul[0][0][0] = 4 })
+	add("Mul behind in entries", func(a *impl.Algebra) { a.Mul[3][3][4] = 1 })
+	add("Mul behind in vectors", func(a *impl.Algebra) { a.Mul[3][4][0] = 1 })
+	add("Mul behind in linear maps", func(a *impl.Algebra) { a.Mul[4][0][0] = 1 })
+	add("Mul at the end", func(a *impl.Algebra) { a.Mul[7][7][7] = 1 })
+	add("axiom of the Unit", func(a *impl.Algebra) { a.Unit = impl.Vector{1} })
+	add("axiom of the Unit, 0", func(a *impl.Algebra) { a.Unit = impl.Vector{} })
+	left := impl.Algebra{Prime: 3, Size: 2, Unit: impl.Vector{1}}
+	left.Mul[0] = impl.Linear{{1}, {0, 1}}
+	list = append(list, sample{"axiom of the Unit on the right", left})
+	right := impl.Algebra{Prime: 3, Size: 2, Unit: impl.Vector{1}}
+	right.Mul[0][0], right.Mul[1][0] = impl.Vector{1}, impl.Vector{0, 1}
+	list = append(list, sample{"axiom of the Unit on the left", right})
+	loose := cyclic(3, 3)
+	loose.Mul[1][1] = impl.Vector{0, 1}
+	list = append(list, sample{"axiom of associativity", loose})
+	return list
+}
+
+// productByHand multiplies vectors straight from the definition.
+func productByHand(a impl.Algebra, v, w impl.Vector) impl.Vector {
+	var product impl.Vector
+	for k := range product {
+		sum := 0
+		for i := range v {
+			for j := range w {
+				sum += int(v[i]) * int(w[j]) * int(a.Mul[i][j][k])
+			}
+		}
+		product[k] = byte(sum % int(a.Prime))
+	}
+	return product
+}
+
+// sumByHand returns v + c w modulo p.
+func sumByHand(p int64, v impl.Vector, c int64, w impl.Vector) impl.Vector {
+	for i := range v {
+		v[i] = byte((int64(v[i]) + c*int64(w[i])) % p)
+	}
+	return v
+}
+
+// unitVector returns e(i).
+func unitVector(i int64) impl.Vector {
+	var e impl.Vector
+	e[i] = 1
+	return e
+}
+
+// allVectors returns all vectors for p and n if there are at most 1000, and none otherwise.
+func allVectors(p, n int64) []impl.Vector {
+	list := []impl.Vector{{}}
+	for i := range n {
+		var next []impl.Vector
+		for _, v := range list {
+			for x := range p {
+				v[i] = byte(x)
+				next = append(next, v)
+			}
+		}
+		list = next
+		if len(list) > 1000 {
+			return nil
+		}
+	}
+	return list
+}
+
+// someVectors returns vectors for p and n: all if these are few, and else 0, the basis, greatest
+// entries, and others that are the same in each run.
+func someVectors(p, n int64) []impl.Vector {
+	if all := allVectors(p, n); len(all) > 0 && len(all) <= 32 {
+		return all
+	}
+	list := []impl.Vector{{}, {}}
+	for i := range n {
+		list[1][i] = byte(p - 1)
+		list = append(list, unitVector(i))
+	}
+	source := rand.New(rand.NewSource(100*p + n))
+	for range 12 {
+		list = append(list, randomVector(source, p, n))
+	}
+	return list
+}
+
+// randomVector returns the next vector for p and n.
+func randomVector(source *rand.Rand, p, n int64) impl.Vector {
+	var v impl.Vector
+	for i := range n {
+		v[i] = byte(source.Int63n(p))
+	}
+	return v
+}
