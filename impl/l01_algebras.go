@@ -86,11 +86,14 @@ func areVectors(p int64, n int64, list []Vector) bool {
 
 // isLinear reports whether f is a linear map for p and n.
 func isLinear(p int64, n int64, f Linear) bool {
-	if !isField(p, n) || !areVectors(p, n, f[:n]) {
-		return false
-	}
-	for _, v := range f[n:] {
-		if v != (Vector{}) {
+	return isField(p, n) && hasImages(p, n, n, f)
+}
+
+// hasImages reports whether the first images of f, as many as count tells, are vectors for p and
+// n, and all others are vectors of zeros.
+func hasImages(p int64, n int64, count int64, f Linear) bool {
+	for i, v := range f {
+		if int64(i) < count && !IsVector(p, n, v) || int64(i) >= count && v != (Vector{}) {
 			return false
 		}
 	}
@@ -460,6 +463,11 @@ func ReduceVectors(p int64, n int64, list []Vector) ([]Vector, int64) {
 	if !areVectors(p, n, list) {
 		return nil, ErrInvalid
 	}
+	return reduceVectors(p, list), ErrNone
+}
+
+// reduceVectors returns the reduced list of the space that vectors span.
+func reduceVectors(p int64, list []Vector) []Vector {
 	rows := make([][]byte, len(list))
 	for i, v := range list {
 		rows[i] = slices.Clone(v[:])
@@ -468,7 +476,7 @@ func ReduceVectors(p int64, n int64, list []Vector) ([]Vector, int64) {
 	for _, row := range reduceRows(p, rows) {
 		reduced = append(reduced, Vector(row))
 	}
-	return reduced, ErrNone
+	return reduced
 }
 
 // VectorText returns the text of a vector for p and n, and ErrNone.

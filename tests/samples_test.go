@@ -248,3 +248,112 @@ func randomVector(source *rand.Rand, p, n int64) impl.Vector {
 	}
 	return v
 }
+
+// cosample is a coalgebra that the tests go through.
+type cosample struct {
+	name      string
+	coalgebra impl.Coalgebra
+}
+
+// dualByHand returns what has the coproducts and the Counit of the dual coalgebra of an algebra,
+// also of what is none.
+func dualByHand(a impl.Algebra) impl.Coalgebra {
+	c := impl.Coalgebra{Prime: a.Prime, Size: a.Size, Counit: a.Unit}
+	for i := range 8 {
+		for j := range 8 {
+			for k := range 8 {
+				c.Com[i][j][k] = a.Mul[j][k][i]
+			}
+		}
+	}
+	return c
+}
+
+// pointsCoalgebra returns the coalgebra of n group-like basis elements.
+func pointsCoalgebra(p, n int64) impl.Coalgebra {
+	return dualByHand(points(p, n))
+}
+
+// sweedlerCoalgebra returns the coalgebra of 1, g, x and g x, with 1 and g group-like and the
+// coproducts g (x) x + x (x) 1 and 1 (x) g x + g x (x) g.
+func sweedlerCoalgebra(p int64) impl.Coalgebra {
+	c := impl.Coalgebra{Prime: p, Size: 4, Counit: impl.Vector{1, 1}}
+	c.Com[0][0][0], c.Com[1][1][1] = 1, 1
+	c.Com[2][1][2], c.Com[2][2][0] = 1, 1
+	c.Com[3][0][3], c.Com[3][3][1] = 1, 1
+	return c
+}
+
+// circleCoalgebra returns the coalgebra of the cosine and the sine, with the coproducts
+// c (x) c - s (x) s and s (x) c + c (x) s.
+func circleCoalgebra(p int64) impl.Coalgebra {
+	c := impl.Coalgebra{Prime: p, Size: 2, Counit: impl.Vector{1}}
+	c.Com[0][0][0], c.Com[0][1][1] = 1, byte(p-1)
+	c.Com[1][1][0], c.Com[1][0][1] = 1, 1
+	return c
+}
+
+// cosamples returns coalgebras of all sizes, cocommutative ones and others, for small and great
+// primes.
+func cosamples() []cosample {
+	var list []cosample
+	for _, s := range samples() {
+		list = append(list, cosample{"the dual of " + s.name, dualByHand(s.algebra)})
+	}
+	for _, p := range []int64{2, 3, 5, 31} {
+		list = append(list, cosample{fmt.Sprint("Sweedler's for ", p), sweedlerCoalgebra(p)})
+		list = append(list, cosample{fmt.Sprint("circle for ", p), circleCoalgebra(p)})
+	}
+	return list
+}
+
+// brokenCoalgebras returns structs each of which violates one condition for coalgebras. Those named
+// "axiom .." have the form of a coalgebra.
+func brokenCoalgebras() []cosample {
+	var list []cosample
+	for _, s := range brokenAlgebras() {
+		list = append(list, cosample{s.name, dualByHand(s.algebra)})
+	}
+	return list
+}
+
+// coproductByHand returns the coproduct of v straight from the definition.
+func coproductByHand(c impl.Coalgebra, v impl.Vector) impl.Linear {
+	var m impl.Linear
+	for j := range m {
+		for k := range m {
+			sum := 0
+			for i, x := range v {
+				sum += int(x) * int(c.Com[i][j][k])
+			}
+			m[j][k] = byte(sum % int(c.Prime))
+		}
+	}
+	return m
+}
+
+// counitByHand returns the Counit of v straight from the definition.
+func counitByHand(c impl.Coalgebra, v impl.Vector) int64 {
+	sum := int64(0)
+	for i, x := range v {
+		sum += int64(x) * int64(c.Counit[i])
+	}
+	return sum % c.Prime
+}
+
+// pairByHand returns v (x) w.
+func pairByHand(p int64, v, w impl.Vector) impl.Linear {
+	var m impl.Linear
+	for j := range m {
+		m[j] = sumByHand(p, impl.Vector{}, int64(v[j]), w)
+	}
+	return m
+}
+
+// sumOfLinear returns f + c g.
+func sumOfLinear(p int64, f impl.Linear, c int64, g impl.Linear) impl.Linear {
+	for j := range f {
+		f[j] = sumByHand(p, f[j], c, g[j])
+	}
+	return f
+}
