@@ -285,6 +285,24 @@ func applyLinear(p int64, f Linear, v Vector) Vector {
 	return sum
 }
 
+// composeLinear returns the linear map that applies g, and then f.
+func composeLinear(p int64, f Linear, g Linear) Linear {
+	var both Linear
+	for i, v := range g {
+		both[i] = applyLinear(p, f, v)
+	}
+	return both
+}
+
+// identityLinear returns the linear map that leads each vector of size n to itself.
+func identityLinear(n int64) Linear {
+	var f Linear
+	for i := range n {
+		f[i] = basisVector(i)
+	}
+	return f
+}
+
 // inverseLinear returns the inverse of a linear map for p and n, and true, or false if there is
 // none.
 func inverseLinear(p int64, n int64, f Linear) (Linear, bool) {
@@ -337,16 +355,21 @@ func reduceRows(p int64, rows [][]byte) [][]byte {
 		if !raiseRow(rows[rank:], place) {
 			continue
 		}
-		first := rows[rank]
-		scaleRow(p, first, inverseNumber(p, first[place]))
-		for i, row := range rows {
-			if i != rank {
-				addMultiple(p, row, negativeNumber(p, row[place]), first)
-			}
-		}
+		clearPlace(p, rows, rank, place)
 		rank++
 	}
 	return rows[:rank]
+}
+
+// clearPlace makes the entry at a place 1 in the row chosen, where it is not 0, and 0 in all others.
+func clearPlace(p int64, rows [][]byte, chosen int, place int) {
+	first := rows[chosen]
+	scaleRow(p, first, inverseNumber(p, first[place]))
+	for i, row := range rows {
+		if i != chosen {
+			addMultiple(p, row, negativeNumber(p, row[place]), first)
+		}
+	}
 }
 
 // raiseRow exchanges the first row with the first one that is not 0 at a place, and reports

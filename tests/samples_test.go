@@ -84,29 +84,36 @@ func dihedral(p, n int64) impl.Algebra {
 	})
 }
 
-// slanted returns the same algebra with the basis f(i) = e(i) + 2 e(i-1) + 3 e(i-2) + .., so that
-// its table has few zeros.
-func slanted(a impl.Algebra) impl.Algebra {
+// slantedBasis returns the basis f(i) = e(i) + 2 e(i-1) + 3 e(i-2) + .., with which tables have few
+// zeros.
+func slantedBasis(p, n int64) [8]impl.Vector {
 	var basis [8]impl.Vector
-	for i := range a.Size {
+	for i := range n {
 		for j := range i + 1 {
-			basis[i][j] = byte((i - j + 1) % a.Prime)
+			basis[i][j] = byte((i - j + 1) % p)
 		}
 	}
-	toNew := func(v impl.Vector) impl.Vector {
-		var w impl.Vector
-		for i := a.Size - 1; i >= 0; i-- {
-			w[i] = v[i]
-			for j := range i + 1 {
-				v[j] = byte((int64(v[j]) + (a.Prime-int64(w[i]))*int64(basis[i][j])) % a.Prime)
-			}
-		}
-		return w
+	return basis
+}
+
+// toSlanted returns the factors of v for the slanted basis.
+func toSlanted(p, n int64, v impl.Vector) impl.Vector {
+	basis := slantedBasis(p, n)
+	var w impl.Vector
+	for i := n - 1; i >= 0; i-- {
+		w[i] = v[i]
+		v = sumByHand(p, v, p-int64(w[i]), basis[i])
 	}
-	b := impl.Algebra{Prime: a.Prime, Size: a.Size, Unit: toNew(a.Unit)}
+	return w
+}
+
+// slanted returns the same algebra with the slanted basis.
+func slanted(a impl.Algebra) impl.Algebra {
+	basis := slantedBasis(a.Prime, a.Size)
+	b := impl.Algebra{Prime: a.Prime, Size: a.Size, Unit: toSlanted(a.Prime, a.Size, a.Unit)}
 	for i := range a.Size {
 		for j := range a.Size {
-			b.Mul[i][j] = toNew(productByHand(a, basis[i], basis[j]))
+			b.Mul[i][j] = toSlanted(a.Prime, a.Size, productByHand(a, basis[i], basis[j]))
 		}
 	}
 	return b
