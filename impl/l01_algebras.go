@@ -102,11 +102,14 @@ func hasImages(p int64, n int64, count int64, f Linear) bool {
 
 // isTable reports whether t is a table for p and n.
 func isTable(p int64, n int64, t Table) bool {
-	if !isField(p, n) {
-		return false
-	}
+	return isField(p, n) && hasMaps(p, n, n, t)
+}
+
+// hasMaps reports whether the first of t, as many as count tells, are linear maps for p and n, and
+// all others are of zeros.
+func hasMaps(p int64, n int64, count int64, t Table) bool {
 	for i, f := range t {
-		if int64(i) < n && !isLinear(p, n, f) || int64(i) >= n && f != (Linear{}) {
+		if int64(i) < count && !isLinear(p, n, f) || int64(i) >= count && f != (Linear{}) {
 			return false
 		}
 	}
@@ -232,6 +235,10 @@ func scaleRow(p int64, row []byte, c byte) {
 func multiply(a Algebra, v Vector, w Vector) Vector {
 	var sum Vector
 	for i := range a.Size {
+		// All checks of axioms come through here, mostly with many zeros.
+		if v[i] == 0 {
+			continue
+		}
 		for j := range a.Size {
 			addMultiple(a.Prime, sum[:], timesNumber(a.Prime, v[i], w[j]), a.Mul[i][j][:])
 		}
@@ -427,16 +434,21 @@ func LeftTable(a Algebra, v Vector) (Linear, int64) {
 	return leftTable(a, v), ErrNone
 }
 
+// trace returns the sum of the entries i of the images of e(i).
+func trace(p int64, f Linear) int64 {
+	sum := int64(0)
+	for i, image := range f {
+		sum += int64(image[i])
+	}
+	return sum % p
+}
+
 // TraceOf returns the trace of the left table of v, and ErrNone.
 func TraceOf(a Algebra, v Vector) (int64, int64) {
 	if !isAlgebraWith(a, v) {
 		return 0, ErrInvalid
 	}
-	sum := int64(0)
-	for i, image := range leftTable(a, v) {
-		sum += int64(image[i])
-	}
-	return sum % a.Prime, ErrNone
+	return trace(a.Prime, leftTable(a, v)), ErrNone
 }
 
 // opposite returns the opposite of an algebra.
